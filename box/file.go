@@ -1,6 +1,10 @@
 package box
 
-import "headend/api"
+import (
+	"headend/api"
+	"headend/check"
+	"headend/wire"
+)
 
 // Kinds of the boxes of a file.
 const (
@@ -23,9 +27,9 @@ const (
 
 // WriteFilm writes a film with the bytes of all samples of each track.
 func WriteFilm(f api.Film, data [][]byte, chunk int) ([]byte, api.Fault) {
-	fault := firstFault(
+	fault := check.First(
 		CheckFilm(f),
-		faultIf(!within(chunk, 1, api.MaxChunk), api.ErrRange),
+		check.If(!check.Within(chunk, 1, api.MaxChunk), api.ErrRange),
 		checkData(f.Tracks, data),
 	)
 	if fault != api.OK {
@@ -52,7 +56,7 @@ func checkData(tracks []api.Track, data [][]byte) api.Fault {
 		return api.ErrForm
 	}
 	for i, t := range tracks {
-		if len(data[i]) != bytesOf(t.Samples) {
+		if len(data[i]) != BytesOf(t.Samples) {
 			return api.ErrForm
 		}
 	}
@@ -72,7 +76,7 @@ func inChunks(t api.Track, data []byte, chunk int) chunked {
 	c := chunked{track: t}
 	for from := 0; from < len(t.Samples); from += chunk {
 		samples := t.Samples[from:min(from+chunk, len(t.Samples))]
-		size := bytesOf(samples)
+		size := BytesOf(samples)
 		c.bytes = append(c.bytes, data[:size])
 		c.counts = append(c.counts, len(samples))
 		data = data[size:]
@@ -99,7 +103,7 @@ func placeChunks(tracks []chunked, begin int) []byte {
 
 func filmBox(scale int, tracks []chunked) api.Box {
 	film := api.Box{Kind: kindFilm}
-	film.Kids = append(film.Kids, api.Box{Kind: kindHead, Data: appendNumbers(nil, scaleBytes, scale)})
+	film.Kids = append(film.Kids, api.Box{Kind: kindHead, Data: wire.Append(nil, scaleBytes, scale)})
 	for _, c := range tracks {
 		film.Kids = append(film.Kids, trackBox(c))
 	}
@@ -109,11 +113,11 @@ func filmBox(scale int, tracks []chunked) api.Box {
 func trackBox(c chunked) api.Box {
 	var edits []byte
 	for _, e := range c.track.Edits {
-		edits = appendNumbers(edits, editBytes/2, e.Length, e.Media)
+		edits = wire.Append(edits, editBytes/2, e.Length, e.Media)
 	}
 	return api.Box{Kind: kindTrack, Kids: []api.Box{
 		{Kind: kindName, Data: []byte(c.track.Name)},
-		{Kind: kindRate, Data: appendNumbers(nil, scaleBytes, c.track.Scale)},
+		{Kind: kindRate, Data: wire.Append(nil, scaleBytes, c.track.Scale)},
 		{Kind: kindEdit, Data: edits},
 		{Kind: kindTable, Data: tableOf(c)},
 	}}

@@ -5,6 +5,7 @@ import (
 	"sort"
 
 	"headend/api"
+	"headend/check"
 	"headend/tick"
 )
 
@@ -13,7 +14,7 @@ const pause = -1
 
 // CheckFilm validates a film.
 func CheckFilm(f api.Film) api.Fault {
-	if !isScale(f.Scale) {
+	if !check.IsScale(f.Scale) {
 		return api.ErrRange
 	}
 	if len(f.Tracks) > api.MaxTracks {
@@ -21,10 +22,10 @@ func CheckFilm(f api.Film) api.Fault {
 	}
 	for i, t := range f.Tracks {
 		twice := slices.ContainsFunc(f.Tracks[:i], func(before api.Track) bool { return before.Name == t.Name })
-		fault := firstFault(
-			faultIf(!isName(t.Name), api.ErrName),
-			faultIf(twice, api.ErrTwice),
-			faultIf(!isScale(t.Scale), api.ErrRange),
+		fault := check.First(
+			check.If(!check.IsName(t.Name), api.ErrName),
+			check.If(twice, api.ErrTwice),
+			check.If(!check.IsScale(t.Scale), api.ErrRange),
 			CheckSamples(t.Samples),
 			checkEdits(t.Edits),
 		)
@@ -40,11 +41,11 @@ func checkEdits(l []api.Edit) api.Fault {
 		return api.ErrLarge
 	}
 	for _, e := range l {
-		if !within(e.Length, 1, api.MaxTime) || !within(e.Media, pause, api.MaxTime) {
+		if !check.Within(e.Length, 1, api.MaxTime) || !check.Within(e.Media, pause, api.MaxTime) {
 			return api.ErrRange
 		}
 	}
-	return faultIf(lengthOf(l) > api.MaxTime, api.ErrRange)
+	return check.If(lengthOf(l) > api.MaxTime, api.ErrRange)
 }
 
 // lengthOf returns how many ticks of the film edits have together.
@@ -61,7 +62,7 @@ func trackOf(f api.Film, track int) (api.Track, api.Fault) {
 	if fault := CheckFilm(f); fault != api.OK {
 		return api.Track{}, fault
 	}
-	if !within(track, 0, len(f.Tracks)-1) {
+	if !check.Within(track, 0, len(f.Tracks)-1) {
 		return api.Track{}, api.ErrRange
 	}
 	return f.Tracks[track], api.OK
@@ -93,7 +94,7 @@ func MediaAt(f api.Film, track, time int) (int, api.Fault) {
 	if fault != api.OK {
 		return 0, fault
 	}
-	if !within(time, 0, api.MaxTime) {
+	if !check.Within(time, 0, api.MaxTime) {
 		return 0, api.ErrRange
 	}
 	for _, e := range editsOf(t) {
@@ -105,7 +106,7 @@ func MediaAt(f api.Film, track, time int) (int, api.Fault) {
 			return 0, api.ErrNone
 		}
 		passed, fault := tick.Convert(time, f.Scale, t.Scale, api.Down)
-		if fault != api.OK || !isTime(e.Media+passed) {
+		if fault != api.OK || !check.IsTime(e.Media+passed) {
 			return 0, api.ErrRange
 		}
 		return e.Media + passed, api.OK
@@ -119,7 +120,7 @@ func FilmAt(f api.Film, track, media int) ([]api.Span, api.Fault) {
 	if fault != api.OK {
 		return nil, fault
 	}
-	if !within(media, 0, api.MaxTime) {
+	if !check.Within(media, 0, api.MaxTime) {
 		return nil, api.ErrRange
 	}
 	var spans []api.Span

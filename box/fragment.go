@@ -1,6 +1,10 @@
 package box
 
-import "headend/api"
+import (
+	"headend/api"
+	"headend/check"
+	"headend/wire"
+)
 
 // Marks of a fragment.
 const (
@@ -51,8 +55,8 @@ func written(n, marks, mark, few int) int {
 }
 
 func checkFragment(f api.Fragment) api.Fault {
-	return firstFault(
-		faultIf(!within(f.Number, 0, maxNumber), api.ErrRange),
+	return check.First(
+		check.If(!check.Within(f.Number, 0, maxNumber), api.ErrRange),
 		CheckSamples(f.Samples),
 	)
 }
@@ -66,18 +70,18 @@ func FragmentBytes(f api.Fragment) ([]byte, api.Fault) {
 	if n > 0 {
 		time = f.Samples[0].Time
 	}
-	b := appendNumbers(nil, 4, f.Number)
-	b = appendNumbers(b, 8, time)
-	b = appendNumbers(b, 2, n)
-	b = appendNumbers(b, 1, marks)
+	b := wire.Append(nil, 4, f.Number)
+	b = wire.Append(b, 8, time)
+	b = wire.Append(b, 2, n)
+	b = wire.Append(b, 1, marks)
 	for _, s := range f.Samples[:written(n, marks, sameSteps, 1)] {
-		b = appendNumbers(b, 4, s.Step)
+		b = wire.Append(b, 4, s.Step)
 	}
 	for _, s := range f.Samples[:written(n, marks, noShifts, 0)] {
-		b = appendNumbers(b, 4, s.Shift)
+		b = wire.Append(b, 4, s.Shift)
 	}
 	for _, s := range f.Samples[:written(n, marks, sameSizes, 1)] {
-		b = appendNumbers(b, 4, s.Size)
+		b = wire.Append(b, 4, s.Size)
 	}
 	for _, s := range f.Samples[:written(n, marks, firstKey, 0)] {
 		if s.Key {
@@ -91,16 +95,16 @@ func FragmentBytes(f api.Fragment) ([]byte, api.Fault) {
 
 // ReadFragment returns the fragment of bytes, or the place of what is wrong.
 func ReadFragment(b []byte) (api.Fragment, int, api.Fault) {
-	r := reader{b: b}
-	number := r.number(4)
-	time := r.number(8)
-	n := r.number(2)
+	r := readerOf(b)
+	number := r.Number(4)
+	time := r.Number(8)
+	n := r.Number(2)
 	marks := r.small(allMarks)
 	l := r.samples(n, time, marks)
-	r.end()
+	r.End()
 	switch {
-	case r.stuck:
-		return api.Fragment{}, r.at, api.ErrSyntax
+	case r.Stuck:
+		return api.Fragment{}, r.At, api.ErrSyntax
 	case n == 0 && time != 0:
 		return api.Fragment{}, placeOfTime, api.ErrForm
 	case marks != marksOf(l):
@@ -116,13 +120,13 @@ func ReadFragment(b []byte) (api.Fragment, int, api.Fault) {
 func (r *reader) samples(n, time, marks int) []api.Sample {
 	l := make([]api.Sample, n)
 	for i := range written(n, marks, sameSteps, 1) {
-		l[i].Step = r.number(4)
+		l[i].Step = r.Number(4)
 	}
 	for i := range written(n, marks, noShifts, 0) {
 		l[i].Shift = r.signed()
 	}
 	for i := range written(n, marks, sameSizes, 1) {
-		l[i].Size = r.number(4)
+		l[i].Size = r.Number(4)
 	}
 	for i := range written(n, marks, firstKey, 0) {
 		l[i].Key = r.small(1) == 1
@@ -145,9 +149,9 @@ func (r *reader) samples(n, time, marks int) []api.Sample {
 
 // Fragments returns the fragments of samples, n in each one, the last one with as many as are left.
 func Fragments(l []api.Sample, n int) ([]api.Fragment, api.Fault) {
-	fault := firstFault(
+	fault := check.First(
 		CheckSamples(l),
-		faultIf(!within(n, 1, api.MaxSamples), api.ErrRange),
+		check.If(!check.Within(n, 1, api.MaxSamples), api.ErrRange),
 	)
 	if fault != api.OK {
 		return nil, fault

@@ -4,6 +4,8 @@ import (
 	"sort"
 
 	"headend/api"
+	"headend/check"
+	"headend/wire"
 )
 
 // ReadFilm reads a film, and the bytes of all samples of each track, or returns the place of what is wrong.
@@ -17,7 +19,7 @@ func ReadFilm(b []byte) (api.Film, [][]byte, int, api.Fault) {
 		return api.Film{}, nil, place, api.ErrSyntax
 	}
 	spots, fault := o.expand()
-	fault = firstFault(fault, CheckFilm(o.film))
+	fault = check.First(fault, CheckFilm(o.film))
 	if fault != api.OK {
 		return api.Film{}, nil, 0, fault
 	}
@@ -93,7 +95,7 @@ func (o *outline) takeFilm(film placed) (int, bool) {
 	if first.Kind != kindHead || len(first.Data) != scaleBytes {
 		return first.at, false
 	}
-	o.film.Scale = numberOf(first.Data)
+	o.film.Scale = wire.Number(first.Data)
 	for _, x := range kids[1:] {
 		if x.Kind != kindTrack {
 			return x.at, false
@@ -112,7 +114,7 @@ func (o *outline) takeTrack(track placed) (int, bool) {
 		take func(b []byte) bool
 	}{
 		{kindName, func(b []byte) bool { t.Name = string(b); return true }},
-		{kindRate, func(b []byte) bool { t.Scale = numberOf(b); return len(b) == scaleBytes }},
+		{kindRate, func(b []byte) bool { t.Scale = wire.Number(b); return len(b) == scaleBytes }},
 		{kindEdit, func(b []byte) bool { t.Edits = readEdits(b); return len(b)%editBytes == 0 }},
 		{kindTable, o.takeTable},
 	}
@@ -129,9 +131,9 @@ func (o *outline) takeTrack(track placed) (int, bool) {
 // readEdits returns the edits that are whole in bytes.
 func readEdits(b []byte) []api.Edit {
 	var l []api.Edit
-	r := reader{b: b}
+	r := readerOf(b)
 	for range len(b) / editBytes {
-		length, media := r.number(editBytes/2), r.number(editBytes/2)
+		length, media := r.Number(editBytes/2), r.Number(editBytes/2)
 		l = append(l, api.Edit{Length: length, Media: media})
 	}
 	return l
@@ -150,7 +152,7 @@ func (o *outline) expand() ([][]api.Spot, api.Fault) {
 	var spots [][]api.Spot
 	for i, t := range o.tables {
 		samples, l, fault := Expand(t)
-		fault = firstFault(o.faults[i], fault)
+		fault = check.First(o.faults[i], fault)
 		if fault != api.OK {
 			return nil, fault
 		}

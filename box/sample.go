@@ -1,6 +1,9 @@
 package box
 
-import "headend/api"
+import (
+	"headend/api"
+	"headend/check"
+)
 
 // CheckSamples validates samples.
 func CheckSamples(l []api.Sample) api.Fault {
@@ -8,18 +11,18 @@ func CheckSamples(l []api.Sample) api.Fault {
 		return api.ErrLarge
 	}
 	for i, s := range l {
-		fault := firstFault(
-			faultIf(!isTime(s.Time), api.ErrRange),
-			faultIf(!within(s.Step, 0, api.MaxStep), api.ErrRange),
-			faultIf(!within(s.Shift, -api.MaxStep, api.MaxStep), api.ErrRange),
-			faultIf(!within(s.Size, 0, api.MaxSampleSize), api.ErrRange),
-			faultIf(i > 0 && s.Time != endOf(l[:i]), api.ErrOrder),
+		fault := check.First(
+			check.If(!check.IsTime(s.Time), api.ErrRange),
+			check.If(!check.Within(s.Step, 0, api.MaxStep), api.ErrRange),
+			check.If(!check.Within(s.Shift, -api.MaxStep, api.MaxStep), api.ErrRange),
+			check.If(!check.Within(s.Size, 0, api.MaxSampleSize), api.ErrRange),
+			check.If(i > 0 && s.Time != endOf(l[:i]), api.ErrOrder),
 		)
 		if fault != api.OK {
 			return fault
 		}
 	}
-	return faultIf(!isTime(endOf(l)), api.ErrRange)
+	return check.If(!check.IsTime(endOf(l)), api.ErrRange)
 }
 
 // endOf returns the time after the last sample, or 0, if there is none.
@@ -31,8 +34,8 @@ func endOf(l []api.Sample) int {
 	return last.Time + last.Step
 }
 
-// bytesOf returns how many bytes samples have together.
-func bytesOf(l []api.Sample) int {
+// BytesOf returns how many bytes samples have together.
+func BytesOf(l []api.Sample) int {
 	n := 0
 	for _, s := range l {
 		n += s.Size

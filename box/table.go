@@ -1,23 +1,26 @@
 package box
 
-import "headend/api"
+import (
+	"headend/api"
+	"headend/check"
+)
 
 // CheckTable validates a table.
 func CheckTable(t api.Table) api.Fault {
 	n := counted(t.Steps)
-	return firstFault(
-		faultIf(!isTime(t.Start), api.ErrRange),
+	return check.First(
+		check.If(!check.IsTime(t.Start), api.ErrRange),
 		checkRuns(t.Steps, 0),
-		faultIf(n > api.MaxSamples, api.ErrLarge),
+		check.If(n > api.MaxSamples, api.ErrLarge),
 		checkRuns(t.Shifts, -api.MaxStep),
-		faultIf(counted(t.Shifts) != n, api.ErrForm),
-		faultIf(len(t.Sizes) != n && (n == 0 || len(t.Sizes) != 1), api.ErrForm),
+		check.If(counted(t.Shifts) != n, api.ErrForm),
+		check.If(len(t.Sizes) != n && (n == 0 || len(t.Sizes) != 1), api.ErrForm),
 		checkEach(t.Sizes, 0, api.MaxSampleSize),
 		checkKeys(t.Keys, n),
 		checkChunks(t.Chunks),
-		faultIf(!isFull(t.Chunks, len(t.Places), n), api.ErrForm),
+		check.If(!isFull(t.Chunks, len(t.Places), n), api.ErrForm),
 		checkEach(t.Places, 0, api.MaxFile),
-		faultIf(!isTime(t.Start+total(t.Steps)), api.ErrRange),
+		check.If(!check.IsTime(t.Start+total(t.Steps)), api.ErrRange),
 	)
 }
 
@@ -42,7 +45,7 @@ func total(l []api.Run) int {
 // checkRuns validates runs of numbers that have a least value.
 func checkRuns(l []api.Run, least int) api.Fault {
 	for _, r := range l {
-		if !within(r.Count, 1, api.MaxSamples) || !within(r.Value, least, api.MaxStep) {
+		if !check.Within(r.Count, 1, api.MaxSamples) || !check.Within(r.Value, least, api.MaxStep) {
 			return api.ErrRange
 		}
 	}
@@ -52,7 +55,7 @@ func checkRuns(l []api.Run, least int) api.Fault {
 // checkKeys validates the numbers of those of n samples that are keys.
 func checkKeys(l []int, n int) api.Fault {
 	for i, key := range l {
-		if !within(key, 1, n) {
+		if !check.Within(key, 1, n) {
 			return api.ErrRange
 		}
 		if i > 0 && key <= l[i-1] {
@@ -64,7 +67,7 @@ func checkKeys(l []int, n int) api.Fault {
 
 func checkChunks(l []api.ChunkRun) api.Fault {
 	for i, c := range l {
-		if !within(c.First, 1, api.MaxSamples) || !within(c.Samples, 1, api.MaxChunk) {
+		if !check.Within(c.First, 1, api.MaxSamples) || !check.Within(c.Samples, 1, api.MaxChunk) {
 			return api.ErrRange
 		}
 		if i == 0 && c.First != 1 || i > 0 && c.First <= l[i-1].First {
@@ -148,11 +151,11 @@ func spotsOf(t api.Table, l []api.Sample) ([]api.Spot, api.Fault) {
 
 // Compact returns the table of samples with so many samples in each chunk, and the places of the chunks.
 func Compact(l []api.Sample, chunks, places []int) (api.Table, api.Fault) {
-	fault := firstFault(
+	fault := check.First(
 		CheckSamples(l),
-		faultIf(len(chunks) != len(places), api.ErrForm),
+		check.If(len(chunks) != len(places), api.ErrForm),
 		checkEach(chunks, 1, api.MaxChunk),
-		faultIf(sum(chunks) != len(l), api.ErrForm),
+		check.If(sum(chunks) != len(l), api.ErrForm),
 		checkEach(places, 0, api.MaxFile),
 	)
 	if fault != api.OK {

@@ -1,13 +1,16 @@
 package box
 
-import "headend/api"
+import (
+	"headend/api"
+	"headend/wire"
+)
 
 // TableBytes writes a table.
 func TableBytes(t api.Table) ([]byte, api.Fault) {
 	if fault := CheckTable(t); fault != api.OK {
 		return nil, fault
 	}
-	b := appendNumbers(nil, 8, t.Start)
+	b := wire.Append(nil, 8, t.Start)
 	b = appendRuns(b, t.Steps)
 	b = appendRuns(b, t.Shifts)
 	b = appendList(b, t.Sizes)
@@ -16,23 +19,23 @@ func TableBytes(t api.Table) ([]byte, api.Fault) {
 	} else {
 		b = appendList(append(b, 1), t.Keys)
 	}
-	b = appendNumbers(b, 4, len(t.Chunks))
+	b = wire.Append(b, 4, len(t.Chunks))
 	for _, c := range t.Chunks {
-		b = appendNumbers(b, 8, c.First, c.Samples)
+		b = wire.Append(b, 8, c.First, c.Samples)
 	}
 	return appendList(b, t.Places), api.OK
 }
 
 func appendRuns(b []byte, l []api.Run) []byte {
-	b = appendNumbers(b, 4, len(l))
+	b = wire.Append(b, 4, len(l))
 	for _, r := range l {
-		b = appendNumbers(b, 8, r.Count, r.Value)
+		b = wire.Append(b, 8, r.Count, r.Value)
 	}
 	return b
 }
 
 func appendList(b []byte, l []int) []byte {
-	return appendNumbers(appendNumbers(b, 4, len(l)), 8, l...)
+	return wire.Append(wire.Append(b, 4, len(l)), 8, l...)
 }
 
 // ReadTable returns the table of bytes, or the place of what is wrong.
@@ -40,11 +43,11 @@ func ReadTable(b []byte) (api.Table, int, api.Fault) {
 	if len(b) > api.MaxFile {
 		return api.Table{}, 0, api.ErrLarge
 	}
-	r := reader{b: b}
+	r := readerOf(b)
 	t := r.table()
-	r.end()
-	if r.stuck {
-		return api.Table{}, r.at, api.ErrSyntax
+	r.End()
+	if r.Stuck {
+		return api.Table{}, r.At, api.ErrSyntax
 	}
 	if fault := CheckTable(t); fault != api.OK {
 		return api.Table{}, 0, fault
@@ -54,7 +57,7 @@ func ReadTable(b []byte) (api.Table, int, api.Fault) {
 
 func (r *reader) table() api.Table {
 	var t api.Table
-	t.Start = r.number(8)
+	t.Start = r.Number(8)
 	t.Steps = r.runs()
 	t.Shifts = r.runs()
 	t.Sizes = r.list()
@@ -62,7 +65,7 @@ func (r *reader) table() api.Table {
 		t.Keys = append([]int{}, r.list()...)
 	}
 	for range r.count(16) {
-		first, samples := r.number(8), r.number(8)
+		first, samples := r.Number(8), r.Number(8)
 		t.Chunks = append(t.Chunks, api.ChunkRun{First: first, Samples: samples})
 	}
 	t.Places = r.list()
@@ -72,7 +75,7 @@ func (r *reader) table() api.Table {
 func (r *reader) runs() []api.Run {
 	var l []api.Run
 	for range r.count(16) {
-		count, value := r.number(8), r.number(8)
+		count, value := r.Number(8), r.Number(8)
 		l = append(l, api.Run{Count: count, Value: value})
 	}
 	return l
@@ -81,7 +84,7 @@ func (r *reader) runs() []api.Run {
 func (r *reader) list() []int {
 	var l []int
 	for range r.count(8) {
-		l = append(l, r.number(8))
+		l = append(l, r.Number(8))
 	}
 	return l
 }

@@ -1,6 +1,10 @@
 package sample
 
-import "headend/api"
+import (
+	"headend/api"
+	"headend/box"
+	"headend/check"
+)
 
 // eachTaken calls a function with the ticks from the first sample to each one, and with the bytes before it, and up to it.
 func eachTaken(p api.Parcel, call func(ticks, before, bytes int)) {
@@ -13,7 +17,7 @@ func eachTaken(p api.Parcel, call func(ticks, before, bytes int)) {
 
 // arrivals returns a function that says how many bytes of a parcel have arrived up to a moment.
 func arrivals(p api.Parcel, rate int) func(at int) int {
-	all := bytesOf(p.Samples)
+	all := box.BytesOf(p.Samples)
 	end := roundedUp(all*p.Scale, rate)
 	return func(at int) int {
 		if at >= end { // also where rate times at has more than 64 bits
@@ -37,7 +41,7 @@ func Delay(p api.Parcel, rate int) (int, api.Fault) {
 	if fault := checkParcel(p); fault != api.OK {
 		return 0, fault
 	}
-	if !within(rate, 1, api.MaxRate) {
+	if !check.Within(rate, 1, api.MaxRate) {
 		return 0, api.ErrRange
 	}
 	delay := leastDelay(p, rate)
@@ -52,7 +56,7 @@ func Fullness(p api.Parcel, rate, delay int) (int, api.Fault) {
 	if fault := checkParcel(p); fault != api.OK {
 		return 0, fault
 	}
-	if !within(rate, 1, api.MaxRate) || !within(delay, 0, api.MaxTicks) {
+	if !check.Within(rate, 1, api.MaxRate) || !check.Within(delay, 0, api.MaxTicks) {
 		return 0, api.ErrRange
 	}
 	if delay < leastDelay(p, rate) {
@@ -71,7 +75,7 @@ func LeastRate(p api.Parcel, delay int) (int, api.Fault) {
 	if fault := checkParcel(p); fault != api.OK {
 		return 0, fault
 	}
-	if !within(delay, 0, api.MaxTicks) {
+	if !check.Within(delay, 0, api.MaxTicks) {
 		return 0, api.ErrRange
 	}
 	rate := 0

@@ -3,17 +3,14 @@ package sample
 import (
 	"headend/api"
 	"headend/box"
+	"headend/check"
 )
-
-func within(n, least, most int) bool { return least <= n && n <= most }
-
-func isTime(n int) bool { return within(n, -api.MaxTime, api.MaxTime) }
 
 func checkParcel(p api.Parcel) api.Fault {
 	if fault := box.CheckSamples(p.Samples); fault != api.OK {
 		return fault
 	}
-	if !within(p.Scale, 1, api.MaxScale) {
+	if !check.IsScale(p.Scale) {
 		return api.ErrRange
 	}
 	return api.OK

@@ -6,6 +6,7 @@ import (
 
 	"headend/api"
 	"headend/box"
+	"headend/check"
 )
 
 // Groups returns the groups of samples: each begins with a Key, or with the first sample.
@@ -55,7 +56,7 @@ func Needed(l []api.Sample, p api.Span) (api.Kept, api.Fault) {
 	if p.To <= p.From {
 		return api.Kept{}, api.ErrOrder
 	}
-	if !isTime(p.From) || !isTime(p.To) {
+	if !check.IsTime(p.From) || !check.IsTime(p.To) {
 		return api.Kept{}, api.ErrRange
 	}
 	presents, ends := presentsOf(l), endsOf(l)
@@ -80,7 +81,7 @@ func Cut(l []api.Sample, k api.Kept) ([]api.Sample, api.Fault) {
 	if fault := box.CheckSamples(l); fault != api.OK {
 		return nil, fault
 	}
-	if !within(k.From, 0, k.To) || k.To > len(l) {
+	if !check.Within(k.From, 0, k.To) || k.To > len(l) {
 		return nil, api.ErrRange
 	}
 	return slices.Clone(l[k.From:k.To]), api.OK

@@ -4,6 +4,8 @@ import (
 	"iter"
 
 	"headend/api"
+	"headend/check"
+	"headend/tick"
 )
 
 // Interleave returns the order in which samples of several tracks are written, as slices of at most so many ticks.
@@ -16,7 +18,7 @@ func Interleave(l []api.Parcel, most int) ([]api.Slice, api.Fault) {
 			return nil, fault
 		}
 	}
-	if !within(most, 0, api.MaxTicks) {
+	if !check.Within(most, 0, api.MaxTicks) {
 		return nil, api.ErrRange
 	}
 	var written []api.Slice
@@ -53,29 +55,15 @@ func decoded(l []api.Parcel) iter.Seq2[int, int] {
 // soonest returns the track whose next sample is decoded first, or -1, if none has one.
 func soonest(l []api.Parcel, next []int) int {
 	best := -1
-	var least moment
+	var least tick.Moment
 	for track, p := range l {
 		if next[track] == len(p.Samples) {
 			continue
 		}
-		m := momentOf(p.Samples[next[track]].Time, p.Scale)
-		if best < 0 || m.before(least) {
+		m := tick.MomentOf(p.Scale, p.Samples[next[track]].Time)
+		if best < 0 || m.Compare(least) < 0 {
 			best, least = track, m
 		}
 	}
 	return best
-}
-
-// moment is whole seconds, and rest / scale of one, so that moments of several scales can be compared within 64 bits.
-type moment struct{ seconds, rest, scale int }
-
-func momentOf(time, scale int) moment {
-	return moment{seconds: time / scale, rest: time % scale, scale: scale}
-}
-
-func (m moment) before(other moment) bool {
-	if m.seconds != other.seconds {
-		return m.seconds < other.seconds
-	}
-	return m.rest*other.scale < other.rest*m.scale
 }

@@ -5,6 +5,7 @@ import (
 
 	"headend/api"
 	"headend/box"
+	"headend/check"
 )
 
 // Moved returns samples that are decoded and presented later.
@@ -12,7 +13,7 @@ func Moved(l []api.Sample, by int) ([]api.Sample, api.Fault) {
 	if fault := box.CheckSamples(l); fault != api.OK {
 		return nil, fault
 	}
-	if !isTime(by) {
+	if !check.IsTime(by) {
 		return nil, api.ErrRange
 	}
 	return checked(movedBy(l, by))

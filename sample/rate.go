@@ -1,15 +1,10 @@
 package sample
 
-import "headend/api"
-
-// bytesOf returns how many bytes samples have together.
-func bytesOf(l []api.Sample) int {
-	bytes := 0
-	for _, s := range l {
-		bytes += s.Size
-	}
-	return bytes
-}
+import (
+	"headend/api"
+	"headend/box"
+	"headend/check"
+)
 
 // roundedUp returns n / by, with n from 0 on.
 func roundedUp(n, by int) int { return (n + by - 1) / by }
@@ -26,7 +21,7 @@ func Mean(p api.Parcel) (int, api.Fault) {
 	if ticks == 0 {
 		return 0, api.ErrZero
 	}
-	return roundedUp(bytesOf(p.Samples)*p.Scale, ticks), api.OK
+	return roundedUp(box.BytesOf(p.Samples)*p.Scale, ticks), api.OK
 }
 
 // Peak returns the greatest number of bytes that samples have together that are decoded in a span of so many ticks.
@@ -34,7 +29,7 @@ func Peak(p api.Parcel, window int) (int, api.Fault) {
 	if fault := checkParcel(p); fault != api.OK {
 		return 0, fault
 	}
-	if !within(window, 1, api.MaxTicks) {
+	if !check.Within(window, 1, api.MaxTicks) {
 		return 0, api.ErrRange
 	}
 	peak, bytes, first := 0, 0, 0

@@ -5,6 +5,7 @@ import (
 
 	"headend/api"
 	"headend/box"
+	"headend/check"
 	"headend/tick"
 )
 
@@ -26,7 +27,7 @@ func Reordered(presents []int, last int, sizes []int, keys []bool) ([]api.Sample
 	if len(sizes) != len(presents) || len(keys) != len(presents) {
 		return nil, api.ErrForm
 	}
-	if slices.ContainsFunc(presents, func(n int) bool { return !isTime(n) }) {
+	if slices.ContainsFunc(presents, func(n int) bool { return !check.IsTime(n) }) {
 		return nil, api.ErrRange
 	}
 	sorted := slices.Sorted(slices.Values(presents))

@@ -4,6 +4,7 @@ import (
 	"sort"
 
 	"headend/api"
+	"headend/check"
 )
 
 // CheckClock validates the anchors of a clock.
@@ -15,7 +16,7 @@ func CheckClock(l []api.Anchor) api.Fault {
 		return api.ErrLarge
 	}
 	for i, a := range l {
-		if !isTime(a.Media) || !within(a.Wall, 0, api.MaxMilli) {
+		if !check.IsTime(a.Media) || !check.Within(a.Wall, 0, api.MaxMilli) {
 			return api.ErrRange
 		}
 		if i > 0 && a.Media <= l[i-1].Media {
@@ -30,7 +31,7 @@ func checkScaled(l []api.Anchor, scale int) api.Fault {
 	if f := CheckClock(l); f != api.OK {
 		return f
 	}
-	if !isScale(scale) {
+	if !check.IsScale(scale) {
 		return api.ErrRange
 	}
 	return api.OK
@@ -51,12 +52,12 @@ func Wall(l []api.Anchor, scale, media int) (int, api.Fault) {
 	if f := checkScaled(l, scale); f != api.OK {
 		return 0, f
 	}
-	if !isTime(media) {
+	if !check.IsTime(media) {
 		return 0, api.ErrRange
 	}
 	later := sort.Search(len(l), func(i int) bool { return l[i].Media > media })
 	wall := milliAt(l[max(later-1, 0)], scale, media)
-	if !within(wall, 0, api.MaxMilli) {
+	if !check.Within(wall, 0, api.MaxMilli) {
 		return 0, api.ErrRange
 	}
 	return wall, api.OK
@@ -67,7 +68,7 @@ func Media(l []api.Anchor, scale, wall int) ([]api.Span, api.Fault) {
 	if f := checkScaled(l, scale); f != api.OK {
 		return nil, f
 	}
-	if !within(wall, 0, api.MaxMilli) {
+	if !check.Within(wall, 0, api.MaxMilli) {
 		return nil, api.ErrRange
 	}
 	var spans []api.Span
@@ -101,7 +102,7 @@ func Kept(l []api.Anchor, scale, slack int) ([]api.Anchor, api.Fault) {
 	if f := checkScaled(l, scale); f != api.OK {
 		return nil, f
 	}
-	if !within(slack, 0, api.MaxMilli) {
+	if !check.Within(slack, 0, api.MaxMilli) {
 		return nil, api.ErrRange
 	}
 	last := l[0]

@@ -1,6 +1,9 @@
 package tick
 
-import "headend/api"
+import (
+	"headend/api"
+	"headend/check"
+)
 
 // Bits that a counter can have.
 const (
@@ -9,7 +12,7 @@ const (
 )
 
 func checkCounters(l []int, bits int) api.Fault {
-	if !within(bits, leastBits, mostBits) {
+	if !check.Within(bits, leastBits, mostBits) {
 		return api.ErrRange
 	}
 	if len(l) > api.MaxTimes {
@@ -26,7 +29,7 @@ func Wrap(l []int, bits int) ([]int, api.Fault) {
 	top := 1<<bits - 1
 	counters := make([]int, len(l))
 	for i, n := range l {
-		if !isTime(n) {
+		if !check.IsTime(n) {
 			return nil, api.ErrRange
 		}
 		counters[i] = n & top
@@ -43,7 +46,7 @@ func Unwrap(l []int, bits int) ([]int, api.Fault) {
 	half := 1 << (bits - 1)
 	times := make([]int, len(l))
 	for i, counter := range l {
-		if !within(counter, 0, top) {
+		if !check.Within(counter, 0, top) {
 			return nil, api.ErrRange
 		}
 		times[i] = counter
@@ -51,7 +54,7 @@ func Unwrap(l []int, bits int) ([]int, api.Fault) {
 			before := times[i-1]
 			times[i] = before - half + (counter-before+half)&top
 		}
-		if !isTime(times[i]) {
+		if !check.IsTime(times[i]) {
 			return nil, api.ErrRange
 		}
 	}

@@ -1,6 +1,9 @@
 package tick
 
-import "headend/api"
+import (
+	"headend/api"
+	"headend/check"
+)
 
 const (
 	firstYear     = 1970
@@ -15,7 +18,7 @@ const dateForm = "0000-00-00T00:00:00.000Z"
 
 // Date returns the moment so many milliseconds after the beginning of the year 1970.
 func Date(milli int) (string, api.Fault) {
-	if !within(milli, 0, api.MaxMilli) {
+	if !check.Within(milli, 0, api.MaxMilli) {
 		return "", api.ErrRange
 	}
 	year, month, day := calendar(milli / milliOfDay)
@@ -35,7 +38,7 @@ func ReadDate(text string) (int, api.Fault) {
 	}
 	year, month, day := number(text[0:4]), number(text[5:7]), number(text[8:10])
 	hour, minute, second := number(text[11:13]), number(text[14:16]), number(text[17:19])
-	if year < firstYear || !within(month, 1, 12) || !within(day, 1, daysOfMonth(year, month)) {
+	if year < firstYear || !check.Within(month, 1, 12) || !check.Within(day, 1, daysOfMonth(year, month)) {
 		return 0, api.ErrSyntax
 	}
 	if hour > 23 || minute > 59 || second > 59 {

@@ -5,6 +5,7 @@ import (
 	"strings"
 
 	"headend/api"
+	"headend/check"
 )
 
 // maxDecimal is how many bytes of a decimal are read.
@@ -12,7 +13,7 @@ const maxDecimal = 30
 
 // Decimal returns n / scale with so many digits after the point.
 func Decimal(n, scale, places int) (string, api.Fault) {
-	if !isTime(n) || !isScale(scale) || !within(places, 0, api.MaxPlaces) {
+	if !check.IsTime(n) || !check.IsScale(scale) || !check.Within(places, 0, api.MaxPlaces) {
 		return "", api.ErrRange
 	}
 	unit := power(places)
@@ -33,7 +34,7 @@ func Decimal(n, scale, places int) (string, api.Fault) {
 
 // ReadDecimal returns as many ticks as a text says seconds, rounded by a way.
 func ReadDecimal(text string, scale, way int) (int, api.Fault) {
-	if !isScale(scale) {
+	if !check.IsScale(scale) {
 		return 0, api.ErrRange
 	}
 	if !isWay(way) {
@@ -47,7 +48,7 @@ func ReadDecimal(text string, scale, way int) (int, api.Fault) {
 	// The seconds before the point are whole ticks, so that only the part behind it is rounded.
 	ticks := portion(signed(number(whole), negative), scale, 1, way)
 	ticks += portion(signed(number(part), negative), scale, power(len(part)), way)
-	if !isTime(ticks) {
+	if !check.IsTime(ticks) {
 		return 0, api.ErrRange
 	}
 	return ticks, api.OK

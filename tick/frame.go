@@ -1,18 +1,21 @@
 package tick
 
-import "headend/api"
+import (
+	"headend/api"
+	"headend/check"
+)
 
 func isRate(frames, seconds, scale int) bool {
-	return within(frames, 1, api.MaxFrames) && within(seconds, 1, api.MaxFrames) && isScale(scale)
+	return check.Within(frames, 1, api.MaxFrames) && check.Within(seconds, 1, api.MaxFrames) && check.IsScale(scale)
 }
 
 // FrameTime returns when a frame begins.
 func FrameTime(frame, frames, seconds, scale int) (int, api.Fault) {
-	if !within(frame, 0, api.MaxFrame) || !isRate(frames, seconds, scale) {
+	if !check.Within(frame, 0, api.MaxFrame) || !isRate(frames, seconds, scale) {
 		return 0, api.ErrRange
 	}
 	time := portion(frame, seconds*scale, frames, api.Down)
-	if !isTime(time) {
+	if !check.IsTime(time) {
 		return 0, api.ErrRange
 	}
 	return time, api.OK
@@ -20,7 +23,7 @@ func FrameTime(frame, frames, seconds, scale int) (int, api.Fault) {
 
 // FrameAt returns the last frame that begins at a time, or before it.
 func FrameAt(time, frames, seconds, scale int) (int, api.Fault) {
-	if !within(time, 0, api.MaxTime) || !isRate(frames, seconds, scale) {
+	if !check.Within(time, 0, api.MaxTime) || !isRate(frames, seconds, scale) {
 		return 0, api.ErrRange
 	}
 	// The beginning of a frame is rounded down, so it is not after the time just if the exact moment is before the next tick.
@@ -30,7 +33,7 @@ func FrameAt(time, frames, seconds, scale int) (int, api.Fault) {
 
 // Regular returns times on grids of a step; what is too far from its grid begins a new one.
 func Regular(l []int, step, slack int) ([]int, api.Fault) {
-	if !within(step, 1, api.MaxTime) || !within(slack, 0, api.MaxTime) {
+	if !check.Within(step, 1, api.MaxTime) || !check.Within(slack, 0, api.MaxTime) {
 		return nil, api.ErrRange
 	}
 	if f := checkRising(l); f != api.OK {
@@ -43,7 +46,7 @@ func Regular(l []int, step, slack int) ([]int, api.Fault) {
 		if i == 0 || size(at-n) > slack || at <= result[i-1] {
 			begin, at = n, n
 		}
-		if !isTime(at) {
+		if !check.IsTime(at) {
 			return nil, api.ErrRange
 		}
 		result[i] = at
@@ -57,7 +60,7 @@ func checkRising(l []int) api.Fault {
 		return api.ErrLarge
 	}
 	for i, n := range l {
-		if !isTime(n) {
+		if !check.IsTime(n) {
 			return api.ErrRange
 		}
 		if i > 0 && n < l[i-1] {

@@ -4,6 +4,7 @@ import (
 	"slices"
 
 	"headend/api"
+	"headend/check"
 )
 
 // CheckSpans validates a list of spans.
@@ -12,7 +13,7 @@ func CheckSpans(l []api.Span) api.Fault {
 		return api.ErrLarge
 	}
 	for i, s := range l {
-		if !isTime(s.From) || !isTime(s.To) {
+		if !check.IsTime(s.From) || !check.IsTime(s.To) {
 			return api.ErrRange
 		}
 		if s.To <= s.From || i > 0 && s.From <= l[i-1].To {

@@ -1,0 +1,47 @@
+// Package check has what all packages ask of their arguments: which numbers are times and scales, which texts are names, and which one of several faults is returned.
+package check
+
+import "headend/api"
+
+// First returns the first one of faults, in the order in which a chapter lists them.
+func First(faults ...api.Fault) api.Fault {
+	for _, fault := range faults {
+		if fault != api.OK {
+			return fault
+		}
+	}
+	return api.OK
+}
+
+// If returns a fault, if something is wrong.
+func If(wrong bool, fault api.Fault) api.Fault {
+	if wrong {
+		return fault
+	}
+	return api.OK
+}
+
+// Within says whether n is a number from least to most.
+func Within(n, least, most int) bool { return least <= n && n <= most }
+
+// IsTime says whether n is a time.
+func IsTime(n int) bool { return Within(n, -api.MaxTime, api.MaxTime) }
+
+// IsScale says whether n is a scale.
+func IsScale(n int) bool { return Within(n, 1, api.MaxScale) }
+
+// IsLetter says whether a byte is one of a to z.
+func IsLetter(b byte) bool { return 'a' <= b && b <= 'z' }
+
+// IsDigit says whether a byte is one of 0 to 9.
+func IsDigit(b byte) bool { return '0' <= b && b <= '9' }
+
+// IsName says whether a text is a name.
+func IsName(name string) bool {
+	for i := range len(name) {
+		if !IsLetter(name[i]) && (i == 0 || !IsDigit(name[i]) && name[i] != '-') {
+			return false
+		}
+	}
+	return Within(len(name), 1, api.MaxName)
+}
