@@ -10,6 +10,9 @@ import (
 	"headend/tick"
 )
 
+// noSample stands for the first sample of a segment that cannot begin at its boundary.
+const noSample = -1
+
 // Segments cuts a rendition at boundaries, which are in ticks of a scale.
 func Segments(r api.Strand, scale int, bounds []int, first int) ([]api.Segment, api.Fault) {
 	fault := check.First(
@@ -57,22 +60,34 @@ func segmentsOf(r api.Strand, scale int, bounds []int, first int) ([]api.Segment
 
 // startsOf returns with which samples the segments begin, and the boundaries in ticks of the rendition.
 func startsOf(r api.Strand, scale int, bounds []int) (starts, times []int, _ api.Fault) {
-	find := finder(r)
+	starts = foundBy(finder(r), scale, bounds)
 	for k, bound := range bounds {
 		at, fault := tick.Convert(bound, scale, r.Scale, api.Down)
+		isEmpty := k+1 < len(starts) && starts[k+1] == starts[k]
+		fault = check.First(
+			fault,
+			check.If(starts[k] == noSample, api.ErrNone),
+			check.If(isEmpty, api.ErrZero),
+		)
 		if fault != api.OK {
 			return nil, nil, fault
 		}
-		start, found := find(tick.MomentOf(scale, bound))
-		if !found {
-			return nil, nil, api.ErrNone
-		}
-		if k > 0 && start == starts[k-1] {
-			return nil, nil, api.ErrZero
-		}
-		starts, times = append(starts, start), append(times, at)
+		times = append(times, at)
 	}
 	return starts, times, api.OK
+}
+
+// foundBy returns what a finder finds at boundaries. They are moments, so that it does not matter whether they are times in ticks of the rendition.
+func foundBy(find func(at tick.Moment) (int, bool), scale int, bounds []int) []int {
+	var starts []int
+	for _, bound := range bounds {
+		start, found := find(tick.MomentOf(scale, bound))
+		if !found {
+			start = noSample
+		}
+		starts = append(starts, start)
+	}
+	return starts
 }
 
 // All cuts renditions at boundaries, which are in ticks of the first one.

@@ -2,7 +2,6 @@ package cut_test
 
 import (
 	"fmt"
-	"math"
 	"math/big"
 	"math/rand"
 	"slices"
@@ -131,6 +130,11 @@ func TestSegmentsFaults(t *testing.T) {
 		"after a group that is not closed": {pictures("p", 1, keyed(timed(0, 1, 3, 1, 0, 1, 2), 0, 2)), 1, []int{4}, 0, api.ErrForm},
 		"one sample":                       {tones(), 10, []int{0, 64, 71}, 0, api.ErrZero},
 		"one sample, and then no time":     {fine, 1, []int{-2, -1, most + 1}, 0, api.ErrZero},
+		"one sample up to what is no time": {fine, 1, []int{1, most + 1}, 0, api.ErrZero}, // boundary by boundary
+		"the last one up to what is none":  {fine, 1, []int{0, 1, most + 1}, 0, api.ErrZero},
+		"samples up to what is no time":    {fine, 1, []int{0, most + 1}, 0, api.ErrRange},
+		"no time, and then one sample":     {fine, 1, []int{most + 1, most + 2}, 0, api.ErrRange},
+		"no time below 0, and one sample":  {fine, 1, []int{-most - 1, -most}, 0, api.ErrRange},
 		"one sample before the first one":  {tones(), 10, []int{-2, -1}, 0, api.ErrZero},
 		"one sample at the end":            {tones(), 10, []int{0, 192, 500}, 0, api.ErrZero},
 		"one sample at first, and no end":  {tones(), 10, []int{64, 65, 500}, 0, api.ErrZero},
@@ -144,91 +148,108 @@ func TestSegmentsFaults(t *testing.T) {
 	}
 }
 
-// segmentsOf cuts as the definitions say, with numbers of any length.
+// startOf returns with which sample a segment begins, as the definition says, or -1.
+func startOf(r api.Strand, scale, bound int) int {
+	start, at := -1, presents(r.Samples)
+	moment := func(ticks, scale int) *big.Rat { return big.NewRat(int64(ticks), int64(scale)) }
+	if !r.Sound {
+		for _, i := range closed(r.Samples) {
+			if moment(at[i], r.Scale).Cmp(moment(bound, scale)) == 0 {
+				start = i
+			}
+		}
+		return start
+	}
+	for i := range at {
+		if moment(at[i], r.Scale).Cmp(moment(bound, scale)) <= 0 {
+			start = i
+		}
+	}
+	return max(start, 0)
+}
+
+// segmentsOf cuts as the definitions say: sample numbers first, and then boundary by boundary.
 func segmentsOf(r api.Strand, scale int, bounds []int, first int) ([]api.Segment, api.Fault) {
 	at, until := presents(r.Samples), ends(r.Samples)
-	moment := func(ticks, scale int) *big.Rat { return big.NewRat(int64(ticks), int64(scale)) }
-	own := func(bound int) int {
-		return int(math.Floor(float64(bound*r.Scale) / float64(scale))) // of small numbers
-	}
-	var starts []int
-	for _, bound := range bounds {
-		start := -1
-		if r.Sound {
-			for i := range at {
-				if moment(at[i], r.Scale).Cmp(moment(bound, scale)) <= 0 {
-					start = i
-				}
-			}
-			start = max(start, 0)
-		} else {
-			for _, i := range closed(r.Samples) {
-				if moment(at[i], r.Scale).Cmp(moment(bound, scale)) == 0 {
-					start = i
-				}
-			}
-		}
-		if start < 0 {
-			return nil, api.ErrNone
-		}
-		if slices.Contains(starts, start) {
-			return nil, api.ErrZero
-		}
-		starts = append(starts, start)
-	}
-	if starts[0] > 0 {
-		return nil, api.ErrForm
+	own := func(bound int) int { // of small scales
+		n := bound * r.Scale
+		return (n - (n%scale+scale)%scale) / scale
 	}
 	var out []api.Segment
 	for k, bound := range bounds {
-		s := api.Segment{Number: first + k, From: starts[k], To: len(at), Begin: at[starts[k]]}
+		s := api.Segment{Number: first + k, From: startOf(r, scale, bound), To: len(at)}
 		if k+1 < len(bounds) {
-			s.To, s.Length = starts[k+1], own(bounds[k+1])-own(bound)
-		} else {
-			s.Length = slices.Max(until[s.From:]) - own(bound)
+			s.To, s.Length = startOf(r, scale, bounds[k+1]), own(bounds[k+1])-own(bound)
 		}
-		if r.Sound {
+		switch {
+		case own(bound) < -api.MaxTime || own(bound) > api.MaxTime:
+			return nil, api.ErrRange
+		case s.From < 0:
+			return nil, api.ErrNone
+		case s.From == s.To:
+			return nil, api.ErrZero
+		}
+		if s.Begin = at[s.From]; r.Sound {
 			s.Lead = max(0, own(bound)-s.Begin)
 		}
-		if s.Length < 0 {
-			return nil, api.ErrRange
-		}
-		s.Bytes = bytesOf(r.Samples[s.From:s.To])
+		s.Bytes = bytesOf(r.Samples[s.From:max(s.To, s.From)]) // To can be -1: the next one is told
 		out = append(out, s)
+	}
+	if out[0].From > 0 {
+		return nil, api.ErrForm
+	}
+	last := &out[len(out)-1]
+	last.Length = slices.Max(until[last.From:]) - own(bounds[len(bounds)-1])
+	if last.Length < 0 {
+		return nil, api.ErrRange
 	}
 	return out, api.OK
 }
 
 func TestManySegments(t *testing.T) {
 	r := rand.New(rand.NewSource(5))
-	faults := map[api.Fault]int{}
-	for range 8000 {
+	faults, late := map[api.Fault]int{}, map[api.Fault]int{}
+	for range 12000 {
 		s := api.Strand{Name: "a", Scale: 1 + r.Intn(3), Sound: r.Intn(2) == 0, Samples: draw(r, 12)}
-		scale := 1 + r.Intn(3)
-		var bounds []int
-		for _, at := range presents(s.Samples) {
-			if r.Intn(3) > 0 {
-				bounds = append(bounds, at*scale/s.Scale+r.Intn(2)*r.Intn(2))
+		scale, seen := 1+r.Intn(3), faults
+		if r.Intn(2) == 0 { // some boundaries are no times in ticks of the rendition
+			s.Scale, seen = scale+1, late
+			last := s.Samples[len(s.Samples)-1]
+			by := api.MaxTime - last.Time - last.Step
+			for i := range s.Samples {
+				s.Samples[i].Time += by
 			}
 		}
+		bounds := drawBounds(r, s, scale)
 		if len(bounds) == 0 {
 			continue
 		}
-		slices.Sort(bounds)
-		bounds = slices.Compact(bounds)
-		if r.Intn(2) == 0 {
-			bounds = bounds[:1+len(bounds)/3]
-		}
 		want, fault := segmentsOf(s, scale, bounds, 9)
-		faults[fault]++
+		seen[fault]++
 		got, f := cut.Segments(s, scale, bounds, 9)
 		isEither(t, fmt.Sprint("Segments ", s, scale, bounds), got, f, want, fault)
 	}
 	for _, fault := range []api.Fault{api.OK, api.ErrNone, api.ErrZero, api.ErrForm, api.ErrRange} {
-		if faults[fault] < 20 {
-			t.Error("too few with fault", fault, faults)
+		if faults[fault] < 20 || late[fault] < 20 {
+			t.Error("too few with fault", fault, faults, late)
 		}
 	}
+}
+
+// drawBounds returns increasing boundaries, most of them at which samples of a rendition are presented.
+func drawBounds(r *rand.Rand, s api.Strand, scale int) []int {
+	var bounds []int
+	for _, at := range presents(s.Samples) {
+		if r.Intn(3) > 0 {
+			bounds = append(bounds, at*scale/s.Scale+r.Intn(2)*r.Intn(2))
+		}
+	}
+	slices.Sort(bounds)
+	bounds = slices.Compact(bounds)
+	if r.Intn(2) == 0 {
+		bounds = bounds[:(len(bounds)+2)/3]
+	}
+	return bounds
 }
 
 // What the chapter says of boundaries out of Common; and what is to be true of the whole.
@@ -315,6 +336,7 @@ func TestAll(t *testing.T) {
 }
 
 func TestAllFaults(t *testing.T) {
+	const most = api.MaxTime / api.MaxScale
 	film := film()
 	late := pictures("q", 1, line(13, 7, 1, 0, 6))
 	for what, c := range map[string]struct {
@@ -330,6 +352,9 @@ func TestAllFaults(t *testing.T) {
 		"the second rendition":   {[]api.Strand{film, late}, []int{0, 7}, 0, api.ErrNone},
 		"rendition by rendition": {[]api.Strand{film, late}, []int{7, 13}, 0, api.ErrForm}, // late would begin with it
 		"sound":                  {[]api.Strand{film, sound("s", 1, line(1, 0, 20))}, []int{0, 7}, 0, api.ErrZero},
+		"sound up to no time": {
+			[]api.Strand{pictures("p", 1, line(2, most, 1, 0, 1)), sound("s", api.MaxScale, line(2, 0, 1))}, []int{most, most + 1}, 0, api.ErrZero,
+		},
 		"sound that ends before": {[]api.Strand{film, sound("s", 1, line(6, 0, 1))}, []int{0, 7}, 0, api.ErrRange},
 	} {
 		got, f := cut.All(c.l, c.bounds, c.first)
