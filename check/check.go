@@ -1,4 +1,4 @@
-// Package check has what all packages ask of their arguments: which numbers are times and scales, which texts are names, and which one of several faults is returned.
+// Package check has what all packages ask of their arguments: which numbers are times and scales, which texts are names and words, and which one of several faults is returned.
 package check
 
 import "headend/api"
@@ -44,4 +44,14 @@ func IsName(name string) bool {
 		}
 	}
 	return Within(len(name), 1, api.MaxName)
+}
+
+// IsWord says whether a text is a row of bytes that can be seen, from 33 to 126, at least one.
+func IsWord(text string) bool {
+	for i := range len(text) {
+		if !Within(int(text[i]), 33, 126) {
+			return false
+		}
+	}
+	return text != ""
 }

@@ -76,3 +76,16 @@ func TestNames(t *testing.T) {
 		}
 	}
 }
+
+func TestWords(t *testing.T) {
+	for text, want := range map[string]bool{"a": true, "!~": true, "#-": true, strings.Repeat("x", 1000): true, "": false, " ": false, "a b": false, "a\n": false, "a\x7f": false, "ä": false} {
+		if check.IsWord(text) != want {
+			t.Errorf("IsWord %q: not %v", text, want)
+		}
+	}
+	for b := range 256 {
+		if check.IsWord("a"+string([]byte{byte(b)})) != (b > 32 && b < 127) {
+			t.Error("IsWord", b)
+		}
+	}
+}

@@ -5,13 +5,10 @@ import (
 	"strings"
 
 	"headend/api"
+	"headend/lines"
 )
 
-const (
-	blank     = " "
-	lineEnd   = "\n"
-	maxDigits = 15 // of a number
-)
+const maxDigits = 15 // of a number
 
 // Text writes renditions, each on a line.
 func Text(l []api.Rung) (string, api.Fault) {
@@ -22,9 +19,9 @@ func Text(l []api.Rung) (string, api.Fault) {
 	for _, r := range l {
 		text.WriteString(r.Name)
 		for _, n := range []int{r.Rate, r.Height, r.Quality} {
-			text.WriteString(blank + strconv.Itoa(n))
+			text.WriteString(lines.Blank + strconv.Itoa(n))
 		}
-		text.WriteString(lineEnd)
+		text.WriteString(lines.End)
 	}
 	return text.String(), api.OK
 }
@@ -35,13 +32,16 @@ func Read(text string) ([]api.Rung, int, api.Fault) {
 		return nil, 0, api.ErrLarge
 	}
 	var l []api.Rung
-	for text != "" {
-		line, rest, isEnded := strings.Cut(text, lineEnd)
+	keep := func(line string) bool {
 		r, isRung := readRung(line)
-		if !isRung || !isEnded {
-			return nil, len(l) + 1, api.ErrSyntax
+		l = append(l, r)
+		return isRung
+	}
+	reader := lines.Of(text)
+	for reader.Left() {
+		if !reader.Take(keep) {
+			return nil, reader.Line(), api.ErrSyntax
 		}
-		l, text = append(l, r), rest
 	}
 	if fault := CheckRenditions(l); fault != api.OK {
 		return nil, 0, fault
@@ -51,27 +51,10 @@ func Read(text string) ([]api.Rung, int, api.Fault) {
 
 // readRung returns the rendition of a line, without its end.
 func readRung(line string) (api.Rung, bool) {
-	words := strings.Split(line, blank)
+	words := strings.Split(line, lines.Blank)
 	r := api.Rung{Name: strings.Clone(words[0])} // as part of the line it would keep the whole text
-	numbers := []*int{&r.Rate, &r.Height, &r.Quality}
-	if r.Name == "" || len(words) != 1+len(numbers) {
+	if r.Name == "" || !lines.Numbers(words[1:], maxDigits, &r.Rate, &r.Height, &r.Quality) {
 		return api.Rung{}, false
 	}
-	for i, word := range words[1:] {
-		n, isNumber := readNumber(word)
-		if !isNumber {
-			return api.Rung{}, false
-		}
-		*numbers[i] = n
-	}
 	return r, true
-}
-
-// readNumber returns the number that digits are, without a needless 0.
-func readNumber(word string) (int, bool) {
-	n, err := strconv.Atoi(word)
-	if err != nil || n < 0 || len(word) > maxDigits || strconv.Itoa(n) != word {
-		return 0, false
-	}
-	return n, true
 }
