@@ -13,6 +13,16 @@ func First(faults ...api.Fault) api.Fault {
 	return api.OK
 }
 
+// Each returns the fault of the first one of elements that has one.
+func Each[E any](l []E, examine func(i int, e E) api.Fault) api.Fault {
+	for i, e := range l {
+		if fault := examine(i, e); fault != api.OK {
+			return fault
+		}
+	}
+	return api.OK
+}
+
 // If returns a fault, if something is wrong.
 func If(wrong bool, fault api.Fault) api.Fault {
 	if wrong {

@@ -31,6 +31,27 @@ func TestFirst(t *testing.T) {
 	}
 }
 
+func TestEach(t *testing.T) {
+	var examined []string
+	examine := func(i int, name string) api.Fault {
+		if i != len(examined) {
+			t.Error("Each: element", i)
+		}
+		examined = append(examined, name)
+		return check.If(name == "", api.ErrName)
+	}
+	if f := check.Each(nil, examine); f != api.OK || len(examined) > 0 {
+		t.Error("Each", f, examined)
+	}
+	if f := check.Each([]string{"a", "b"}, examine); f != api.OK || strings.Join(examined, " ") != "a b" {
+		t.Error("Each", f, examined)
+	}
+	examined = nil
+	if f := check.Each([]string{"a", "", "b", ""}, examine); f != api.ErrName || len(examined) != 2 {
+		t.Error("Each", f, examined)
+	}
+}
+
 func TestNumbers(t *testing.T) {
 	for _, c := range []struct {
 		n           int
