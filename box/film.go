@@ -135,23 +135,11 @@ func FilmAt(f api.Film, track, media int) ([]api.Span, api.Fault) {
 			})
 		}
 		if passed := media - e.Media; e.Media != pause && passed >= 0 {
-			spans = appendTouching(spans, begin+firstWith(passed), begin+firstWith(passed+1))
+			spans = tick.AppendSpan(spans, begin+firstWith(passed), begin+firstWith(passed+1))
 		}
 		begin += length
 	}
 	return spans, api.OK
-}
-
-// appendTouching appends a span, if it has a tick; if it touches the last one, both become one.
-func appendTouching(l []api.Span, from, to int) []api.Span {
-	if from >= to {
-		return l
-	}
-	if n := len(l); n > 0 && l[n-1].To == from {
-		l[n-1].To = to
-		return l
-	}
-	return append(l, api.Span{From: from, To: to})
 }
 
 // Shown returns the spans of the ticks of the medium that are presented.
@@ -161,14 +149,14 @@ func Shown(f api.Film, track int) ([]api.Span, api.Fault) {
 		return nil, fault
 	}
 	if len(t.Edits) == 0 {
-		return appendTouching(nil, 0, endOf(t.Samples)), api.OK
+		return tick.AppendSpan(nil, 0, endOf(t.Samples)), api.OK
 	}
 	var spans []api.Span
 	for _, e := range t.Edits {
 		if e.Media == pause {
 			continue
 		}
-		shown := appendTouching(nil, e.Media, endOfEdit(f, t, e))
+		shown := tick.AppendSpan(nil, e.Media, endOfEdit(f, t, e))
 		spans, fault = tick.Join(spans, shown)
 		if fault != api.OK {
 			return nil, fault

@@ -80,21 +80,10 @@ func Media(l []api.Anchor, scale, wall int) ([]api.Span, api.Fault) {
 		}
 		from := max(firstTick(a, scale, wall), least)
 		to := min(firstTick(a, scale, wall+1), most)
-		if from < to {
-			spans = appendTouching(spans, api.Span{From: from, To: to})
-		}
+		spans = AppendSpan(spans, from, to)
 		least = most
 	}
 	return spans, api.OK
-}
-
-// appendTouching appends a span; if it touches the last one, both become one.
-func appendTouching(l []api.Span, s api.Span) []api.Span {
-	if n := len(l); n > 0 && l[n-1].To == s.From {
-		l[n-1].To = s.To
-		return l
-	}
-	return append(l, s)
 }
 
 // Kept returns the anchors that are needed, so that the clock is wrong by at most slack at those that are not.

@@ -89,6 +89,18 @@ func member(l []api.Span) func(tick int) bool {
 	}
 }
 
+// AppendSpan appends a span to spans that all end before it, as append does; if it touches the last one, both become one, and if it has no tick, there is none.
+func AppendSpan(l []api.Span, from, to int) []api.Span {
+	if from >= to {
+		return l
+	}
+	if n := len(l); n > 0 && l[n-1].To == from {
+		l[n-1].To = to
+		return l
+	}
+	return append(l, api.Span{From: from, To: to})
+}
+
 // Length returns how many ticks there are in spans.
 func Length(l []api.Span) (int, api.Fault) {
 	if f := CheckSpans(l); f != api.OK {

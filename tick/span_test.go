@@ -229,3 +229,24 @@ func TestSpansLeaveArguments(t *testing.T) {
 		}
 	}
 }
+
+func TestAppendSpan(t *testing.T) {
+	for _, c := range []struct {
+		l        []api.Span
+		from, to int
+		want     []api.Span
+	}{
+		{nil, 3, 5, spans(3, 5)},
+		{nil, 3, 3, nil},
+		{nil, 3, 2, nil},
+		{spans(0, 3), 5, 6, spans(0, 3, 5, 6)},
+		{spans(0, 3), 3, 6, spans(0, 6)},
+		{spans(-9, -8, 0, 3), 3, 4, spans(-9, -8, 0, 4)},
+		{spans(0, 3), 3, 3, spans(0, 3)},
+		{spans(0, 3), 4, 4, spans(0, 3)},
+		{spans(0, 3), 5, 4, spans(0, 3)},
+		{spans(0, 3), api.MaxTime - 1, api.MaxTime, spans(0, 3, api.MaxTime-1, api.MaxTime)},
+	} {
+		isList(t, "AppendSpan", tick.AppendSpan(c.l, c.from, c.to), api.OK, c.want)
+	}
+}
